@@ -7,6 +7,7 @@ import (
 
 	"pouch/api"
 	"pouch/code"
+	"pouch/samples"
 )
 
 // varints pairs non-negative integers with their varints, at every change of length.
@@ -476,7 +477,7 @@ func TestDecodingInvertsEncoding(t *testing.T) {
 
 // P2.6: what is decoded without an error encodes to the bytes that it was decoded from. P1: nothing panics.
 func TestEncodingInvertsDecoding(t *testing.T) {
-	for _, s := range inputsOver("\x00\x01\x02\x03\x7f\x80\xff", 5) {
+	for _, s := range samples.Words("\x00\x01\x02\x03\x7f\x80\xff", 5) {
 		if consumed, ok, again := decodedBy(s, func(r *code.Reader) string { return code.Num(r.Num()) }); ok && again != consumed {
 			t.Errorf("Num of %q: %q encodes to %q", s, consumed, again)
 		}
@@ -527,19 +528,4 @@ func checkFailed(t *testing.T, r *code.Reader) {
 			t.Fatalf("after an error: Nums = %v, Done %v", l, r.Done())
 		}
 	}
-}
-
-// inputsOver lists all strings of at most longest bytes of the alphabet.
-func inputsOver(alphabet string, longest int) []string {
-	inputs := []string{""}
-	for from, length := 0, 0; length < longest; length++ {
-		to := len(inputs)
-		for _, input := range inputs[from:to] {
-			for i := range len(alphabet) {
-				inputs = append(inputs, input+alphabet[i:i+1])
-			}
-		}
-		from = to
-	}
-	return inputs
 }

@@ -6,6 +6,7 @@ import (
 
 	"pouch/api"
 	"pouch/num"
+	"pouch/samples"
 )
 
 // decimals pairs integers with their canonical decimal forms.
@@ -288,7 +289,7 @@ func TestParseInvertsText(t *testing.T) {
 
 // P1.4: what Parse accepts is what Text gives.
 func TestTextInvertsParse(t *testing.T) {
-	for _, s := range wordsOver("-+019 a", 4) {
+	for _, s := range samples.Words("-+019 a", 4) {
 		if n, ok := num.Parse(s, api.MinInt, api.MaxInt); ok && num.Text(n) != s {
 			t.Errorf("Parse took %q for %d", s, n)
 		}
@@ -332,7 +333,7 @@ func TestCallsOfAnyArguments(t *testing.T) {
 			}
 		}
 	}
-	for _, s := range wordsOver("\x00-+0fFg\xff", 4) {
+	for _, s := range samples.Words("\x00-+0fFg\xff", 4) {
 		if n, ok := num.Parse(s, api.MinInt, api.MaxInt); !ok && n != 0 {
 			t.Errorf("Parse(%q) = %d, false", s, n)
 		}
@@ -340,19 +341,4 @@ func TestCallsOfAnyArguments(t *testing.T) {
 			t.Errorf("Unhex(%q) = %q, %v", s, bytes, ok)
 		}
 	}
-}
-
-// wordsOver lists all strings of at most longest bytes of the alphabet.
-func wordsOver(alphabet string, longest int) []string {
-	words := []string{""}
-	for from, length := 0, 0; length < longest; length++ {
-		to := len(words)
-		for _, word := range words[from:to] {
-			for i := range len(alphabet) {
-				words = append(words, word+alphabet[i:i+1])
-			}
-		}
-		from = to
-	}
-	return words
 }
