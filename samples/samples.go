@@ -16,3 +16,15 @@ func Words(alphabet string, longest int) []string {
 	}
 	return words
 }
+
+// Noise returns a string of the given length without a pattern, always the same one for a length and a seed.
+func Noise(length int, seed uint64) string {
+	noise := make([]byte, 0, max(0, length))
+	state := seed
+	for len(noise) < length {
+		state = state*6364136223846793005 + 1442695040888963407
+		// The low bits of such a sequence repeat soon; the high ones do not.
+		noise = append(noise, byte(state>>56))
+	}
+	return string(noise)
+}

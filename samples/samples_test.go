@@ -25,3 +25,22 @@ func TestWords(t *testing.T) {
 		}
 	}
 }
+
+func TestNoise(t *testing.T) {
+	for _, length := range []int{-1, 0, 1, 2, 63, 5000} {
+		if got := samples.Noise(length, 1); len(got) != max(0, length) || got != samples.Noise(length, 1) {
+			t.Errorf("Noise(%d, 1) = %q", length, got)
+		}
+	}
+	seen := map[byte]bool{}
+	noise := samples.Noise(5000, 1)
+	for i := range len(noise) {
+		seen[noise[i]] = true
+	}
+	if len(seen) != 256 {
+		t.Errorf("only %d bytes occur", len(seen))
+	}
+	if noise == samples.Noise(5000, 2) || noise[:2500] == noise[2500:] {
+		t.Error("the noise repeats")
+	}
+}
