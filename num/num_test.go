@@ -298,13 +298,10 @@ func TestTextInvertsParse(t *testing.T) {
 
 // P1.4: Unhex inverts Hex, for the digits of either case.
 func TestUnhexInvertsHex(t *testing.T) {
-	all := make([]byte, 0, 256)
-	for b := range 256 {
-		all = append(all, byte(b))
-	}
-	texts := []string{"", "pouch", "caf\u00e9", "\xff\xfe\xfd", string(all), strings.Repeat("\x00\xff", 5000)}
-	for b := range 256 {
-		texts = append(texts, string(all[b:b+1]), string(all[:b]))
+	all := samples.AllBytes()
+	texts := []string{"", "pouch", "caf\u00e9", "\xff\xfe\xfd", all, strings.Repeat("\x00\xff", 5000)}
+	for b := range len(all) {
+		texts = append(texts, all[b:b+1], all[:b])
 	}
 	for _, s := range texts {
 		hex := num.Hex(s)

@@ -1,6 +1,15 @@
 // Package samples makes inputs for the tests of the layers.
 package samples
 
+// AllBytes returns a string of every byte once, in order.
+func AllBytes() string {
+	all := make([]byte, 256)
+	for b := range all {
+		all[b] = byte(b)
+	}
+	return string(all)
+}
+
 // Words lists all strings of at most longest bytes of the alphabet, the shorter ones first.
 func Words(alphabet string, longest int) []string {
 	words := []string{""}

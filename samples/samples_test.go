@@ -7,6 +7,18 @@ import (
 	"pouch/samples"
 )
 
+func TestAllBytes(t *testing.T) {
+	all := samples.AllBytes()
+	for b := range len(all) {
+		if int(all[b]) != b {
+			t.Errorf("byte %d is %d", b, all[b])
+		}
+	}
+	if len(all) != 256 {
+		t.Errorf("%d bytes", len(all))
+	}
+}
+
 func TestWords(t *testing.T) {
 	for _, c := range []struct {
 		alphabet string

@@ -12,14 +12,7 @@ import (
 	"pouch/sum"
 )
 
-// allBytes holds every byte once, in order.
-var allBytes = func() string {
-	all := make([]byte, 256)
-	for b := range all {
-		all[b] = byte(b)
-	}
-	return string(all)
-}()
+var allBytes = samples.AllBytes()
 
 // P3.1: checksums known from elsewhere.
 func TestCrcOfKnownStrings(t *testing.T) {
