@@ -83,25 +83,10 @@ var broken = []struct {
 	{repaired + "\xff" + repaired, []int{65533, 65533, 65533}},
 }
 
-// encoding is the UTF-8 encoding of a code point, as the chapter defines it.
-func encoding(x int) string {
-	switch {
-	case x < 128:
-		return string([]byte{byte(x)})
-	case x < 2048:
-		return string([]byte{byte(192 + x/64), byte(128 + x%64)})
-	case x < 65536:
-		return string([]byte{byte(224 + x/4096), byte(128 + x/64%64), byte(128 + x%64)})
-	}
-	return string([]byte{byte(240 + x/262144), byte(128 + x/4096%64), byte(128 + x/64%64), byte(128 + x%64)})
-}
-
-func isCodePoint(n int) bool { return 0 <= n && n <= 1114111 && (n < 55296 || n > 57343) }
-
 func encodings(points []int) string {
 	var s strings.Builder
 	for _, n := range points {
-		s.WriteString(encoding(n))
+		s.WriteString(samples.Encoding(n))
 	}
 	return s.String()
 }
@@ -110,39 +95,14 @@ func encodings(points []int) string {
 func decoded(s string) []int {
 	var points []int
 	for len(s) > 0 {
-		point, length := 65533, 1
-		for n := 1; n <= min(4, len(s)); n++ {
-			if x := payload(s[:n]); isCodePoint(x) && encoding(x) == s[:n] {
-				point, length = x, n
-			}
+		point, length := samples.FirstRune(s)
+		if length == 0 {
+			point, length = 65533, 1
 		}
 		points = append(points, point)
 		s = s[length:]
 	}
 	return points
-}
-
-// payload is the only integer of which a string of at most four bytes can be the encoding.
-func payload(s string) int {
-	x := int(s[0])
-	if len(s) > 1 {
-		x &= 0x7f >> len(s)
-	}
-	for i := 1; i < len(s); i++ {
-		x = x<<6 | int(s[i])&0x3f
-	}
-	return x
-}
-
-// anyStrings lists all strings of at most two bytes, longer ones of the bytes at which the encodings change, and strings without a pattern.
-func anyStrings() []string {
-	list := samples.Words(allBytes, 2)
-	list = append(list, samples.Words("a\x7f\x80\x8f\x90\x9f\xa0\xbf\xc0\xc1\xc2\xdf\xe0\xe1\xed\xee\xef\xf0\xf1\xf4\xf5\xff", 4)...)
-	list = append(list, allBytes, strings.Repeat("\xff", 3000), strings.Repeat("\xf0\x9f\x98\x80", 1000)+"\xf0\x9f\x98")
-	for seed := range uint64(20) {
-		list = append(list, samples.Noise(1000, seed))
-	}
-	return list
 }
 
 // P4.1: Rune gives the encoding of a code point, at the edges of each length.
@@ -157,10 +117,10 @@ func TestRuneOfEdges(t *testing.T) {
 // P4.1: Rune gives the encoding of every code point; Runes and Valid read each of them.
 func TestEveryCodePoint(t *testing.T) {
 	for n := range 1114112 {
-		if !isCodePoint(n) {
+		if !samples.IsRune(n) {
 			continue
 		}
-		s := encoding(n)
+		s := samples.Encoding(n)
 		if got := charset.Rune(n); got != s {
 			t.Errorf("Rune(%d) = %q, want %q", n, got, s)
 		}
@@ -249,7 +209,7 @@ func TestRepair(t *testing.T) {
 
 // P4.1, P4.2, P4.4, P1: strings of all kinds are decoded as the chapter defines it; Repair gives valid UTF-8, is idempotent and leaves valid UTF-8 as it is.
 func TestAnyStrings(t *testing.T) {
-	for _, s := range anyStrings() {
+	for _, s := range samples.Texts() {
 		points := decoded(s)
 		want := encodings(points)
 		if got := charset.Runes(s); !slices.Equal(got, points) {
@@ -412,7 +372,7 @@ func TestDecodeOfEveryByte(t *testing.T) {
 
 // P4.3, P4.4, P1: strings of all kinds under every name.
 func TestDecodeOfAnyStrings(t *testing.T) {
-	strs := anyStrings()
+	strs := samples.Texts()
 	for _, name := range append(slices.Clone(names), "", "utf-16") {
 		known := slices.Contains(names, name)
 		for _, s := range strs {
